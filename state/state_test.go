@@ -659,3 +659,27 @@ func TestMemory(t *testing.T) {
 		placeOf(oid(1, 1), oid(3, 1), ids(3, 1), number(6)),
 		placeOf(oid(1, 1), oid(2, 1), ids(4, 2, 2, 1), number(9), count(51)))
 }
+
+// S1, S3: changes that are added one by one come to what Of and Text tell of all.
+func TestSum(t *testing.T) {
+	s := NewSum()
+	if s.Text() != "{}" || s.Kind(oid(0, 0)) != api.Map || s.Kind(oid(1, 1)) != 0 {
+		t.Errorf("of no changes: got %s", s.Text())
+	}
+	s.Add(with(1, 1, 1, nil, mk(oid(0, 0), "l", api.List), mk(oid(0, 0), "m", api.Map), insert(oid(1, 1), oid(0, 0), number(5))))
+	s.Add(with(2, 1, 4, refs(1, 1), put(oid(0, 0), "m", number(6), oid(2, 1))))
+	if got, want := s.Text(), `{"l":[5],"m":6}`; got != want {
+		t.Errorf("Text: got %s, want %s", got, want)
+	}
+	if s.Kind(oid(1, 1)) != api.List || s.Kind(oid(2, 1)) != api.Map || s.Kind(oid(3, 1)) != 0 {
+		t.Error("Kind of a list, of a map that is gone, or of none")
+	}
+	for key, want := range map[string]Place{"m": place(oid(0, 0), "m", ids(4, 2), number(6)), "none": {Key: "none"}} {
+		if got := s.At(oid(0, 0), key); !reflect.DeepEqual(got, want) {
+			t.Errorf("At %q: got %v, want %v", key, got, want)
+		}
+	}
+	if got, want := s.Places(oid(1, 1)), []Place{placeOf(oid(1, 1), oid(3, 1), ids(3, 1), number(5))}; !reflect.DeepEqual(got, want) {
+		t.Errorf("Places: got %v, want %v", got, want)
+	}
+}

@@ -19,8 +19,8 @@ type spot struct {
 	elem api.Id
 }
 
-// sum is what comes of changes, each added behind those it hangs on.
-type sum struct {
+// Sum is what comes of changes, each added behind those it hangs on, and such that a book takes it there.
+type Sum struct {
 	has    map[api.Id]api.Value // what each Put and Make has that is not over
 	kinds  map[api.Id]int       // Map or List, of each object
 	keys   map[api.Id][]spot    // of each map those at which something was said
@@ -28,8 +28,9 @@ type sum struct {
 	behind map[spot][]api.Id    // Inserts behind an element, or at the head
 }
 
-func newSum() *sum {
-	return &sum{
+// NewSum is what comes of no changes.
+func NewSum() *Sum {
+	return &Sum{
 		has:    map[api.Id]api.Value{},
 		kinds:  map[api.Id]int{{}: api.Map},
 		keys:   map[api.Id][]spot{},
@@ -38,13 +39,14 @@ func newSum() *sum {
 	}
 }
 
-func (s *sum) add(c api.Change) {
+// Add adds a change.
+func (s *Sum) Add(c api.Change) {
 	for i, a := range change.Ids(c) {
 		s.addOp(a, c.Ops[i])
 	}
 }
 
-func (s *sum) addOp(a api.Id, op api.Op) {
+func (s *Sum) addOp(a api.Id, op api.Op) {
 	switch op.Kind {
 	case api.Inc:
 		s.increase(op)
@@ -57,14 +59,14 @@ func (s *sum) addOp(a api.Id, op api.Op) {
 }
 
 // end takes away what is over. It has all been said: an op hangs on its Preds.
-func (s *sum) end(preds []api.Id) {
+func (s *Sum) end(preds []api.Id) {
 	for _, a := range preds {
 		delete(s.has, a)
 	}
 }
 
 // increase adds to Counts. One that is not there any more is over, and nothing brings it back.
-func (s *sum) increase(op api.Op) {
+func (s *Sum) increase(op api.Op) {
 	for _, a := range op.Preds {
 		if v, ok := s.has[a]; ok {
 			v.Num += op.Value.Num
@@ -74,7 +76,7 @@ func (s *sum) increase(op api.Op) {
 }
 
 // say adds what a Put or Make says.
-func (s *sum) say(a api.Id, op api.Op) {
+func (s *Sum) say(a api.Id, op api.Op) {
 	at := spot{obj: op.Obj, key: op.Key, elem: op.Elem}
 	if op.Insert {
 		s.behind[at] = append(s.behind[at], a)
@@ -92,13 +94,26 @@ func (s *sum) say(a api.Id, op api.Op) {
 	s.has[a] = v
 }
 
+// Kind of an object: Map or List; 0, if there is none such.
+func (s *Sum) Kind(obj api.Id) int { return s.kinds[obj] }
+
+// Text of the root.
+func (s *Sum) Text() string {
+	var text strings.Builder
+	s.write(&text, rootMap())
+	return text.String()
+}
+
+// At gives the place of a key, also one that has nothing.
+func (s *Sum) At(obj api.Id, key string) Place { return s.place(spot{obj: obj, key: key}) }
+
 // objects gives the root and all that were made, rising.
-func (s *sum) objects() []api.Id {
+func (s *Sum) objects() []api.Id {
 	return slices.SortedFunc(maps.Keys(s.kinds), compareIds)
 }
 
-// places gives those of an object that have values, in their order.
-func (s *sum) places(obj api.Id) []Place {
+// Places gives those of an object that have values, in their order.
+func (s *Sum) Places(obj api.Id) []Place {
 	var l []Place
 	for _, at := range s.inOrder(obj) {
 		if p := s.place(at); len(p.Ids) > 0 {
@@ -109,7 +124,7 @@ func (s *sum) places(obj api.Id) []Place {
 }
 
 // inOrder gives the spots of an object: of a map by key, of a list as its elements stand.
-func (s *sum) inOrder(obj api.Id) []spot {
+func (s *Sum) inOrder(obj api.Id) []spot {
 	if s.kinds[obj] == api.Map {
 		byKey := func(a, b spot) int { return cmp.Compare(a.key, b.key) }
 		return slices.SortedFunc(slices.Values(s.keys[obj]), byKey)
@@ -122,7 +137,7 @@ func (s *sum) inOrder(obj api.Id) []spot {
 }
 
 // elements gives all Inserts into a list, each with those that stand behind it.
-func (s *sum) elements(list api.Id) []api.Id {
+func (s *Sum) elements(list api.Id) []api.Id {
 	var l []api.Id
 	var walk func(elem api.Id)
 	walk = func(elem api.Id) {
@@ -136,7 +151,7 @@ func (s *sum) elements(list api.Id) []api.Id {
 }
 
 // place gives a spot with what it has.
-func (s *sum) place(at spot) Place {
+func (s *Sum) place(at spot) Place {
 	isOver := func(a api.Id) bool {
 		_, ok := s.has[a]
 		return !ok
@@ -150,7 +165,7 @@ func (s *sum) place(at spot) Place {
 }
 
 // write writes the text of a value, with all that is in it.
-func (s *sum) write(text *strings.Builder, v api.Value) {
+func (s *Sum) write(text *strings.Builder, v api.Value) {
 	switch v.Kind {
 	case api.Map:
 		text.WriteString("{")
@@ -165,8 +180,8 @@ func (s *sum) write(text *strings.Builder, v api.Value) {
 	}
 }
 
-func (s *sum) writePlaces(text *strings.Builder, obj api.Id) {
-	for i, p := range s.places(obj) {
+func (s *Sum) writePlaces(text *strings.Builder, obj api.Id) {
+	for i, p := range s.Places(obj) {
 		if i > 0 {
 			text.WriteString(",")
 		}
@@ -180,7 +195,9 @@ func (s *sum) writePlaces(text *strings.Builder, obj api.Id) {
 
 // falling gives a list of its own.
 func falling(l []api.Id) []api.Id {
-	return slices.SortedFunc(slices.Values(l), func(a, b api.Id) int { return compareIds(b, a) })
+	l = append([]api.Id(nil), l...)
+	slices.SortFunc(l, func(a, b api.Id) int { return compareIds(b, a) })
+	return l
 }
 
 func compareIds(a, b api.Id) int {

@@ -128,6 +128,9 @@ func wantTold(t *testing.T, what string, l []api.Change, want api.Errno) {
 	if s, err := Text(l); plain.Told(err) != want || s != "" {
 		t.Errorf("%s: Text: got %q, %v, want %v", what, s, err, want)
 	}
+	if b, err := Book(l); plain.Told(err) != want || b != nil {
+		t.Errorf("%s: Book: got %v, %v, want %v", what, b, err, want)
+	}
 	for _, obj := range []api.Id{root, oid(1, 1), oid(9, 9), oid(-1, 100)} {
 		if e, err := Elements(l, obj); plain.Told(err) != want || e != nil {
 			t.Errorf("%s: Elements of %v: got %v, %v, want %v", what, obj, e, err, want)
@@ -253,6 +256,17 @@ func TestWaits(t *testing.T) {
 	l = chain(3)
 	l[1], l[2] = l[2], l[1]
 	wantTold(t, "the last ahead of the middle", l, api.ErrState)
+}
+
+// S1: the Book has all that was handed in, and nothing waits there.
+func TestBook(t *testing.T) {
+	for many := range 4 {
+		l := append(chain(many), with(2, 1, 9, nil))
+		b, err := Book(l)
+		if err != nil || !reflect.DeepEqual(b.All(), l) || len(b.Waiting()) > 0 {
+			t.Errorf("Book of %v: got %v, %v", l, b, err)
+		}
+	}
 }
 
 // S1: a book is full at MaxChanges.

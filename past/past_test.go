@@ -655,13 +655,13 @@ func deep(many int) api.Tree {
 func keyed(many int, begin string) api.Tree {
 	x := mapOf("")
 	for i := range many - 1 {
-		x.Keys = append(x.Keys, fmt.Sprintf("%s%03d", begin, i))
+		x.Keys = append(x.Keys, fmt.Sprintf("%s%04d", begin, i))
 		x.Kids = append(x.Kids, leaf(number(i)))
 	}
 	return x
 }
 
-// P1: a tree has up to MaxList trees; a text has no such bound.
+// P1: Diff has patches of up to MaxList trees; a tree and a text have no such bound.
 func TestTreeFull(t *testing.T) {
 	for _, full := range []api.Tree{wide(400, number(1)), deep(400), keyed(400, "k")} {
 		if size(full) != api.MaxList {
@@ -674,12 +674,10 @@ func TestTreeFull(t *testing.T) {
 		wantDiff(t, "MaxList trees", l, nil, heads)
 		wantDiff(t, "MaxList trees", l, heads, nil)
 	}
-	for _, more := range []api.Tree{wide(401, number(1)), deep(402), keyed(401, "k"), wide(3000, truth(1)), deep(3000), keyed(999, "k")} {
+	for _, more := range []api.Tree{wide(401, number(1)), deep(402), keyed(401, "k"), keyed(441, "k"), wide(3000, truth(1)), deep(3000), keyed(999, "k")} {
 		l := written(1, more)
 		heads := refsOf(l[len(l)-1:])
-		if got, err := Tree(l); plain.Told(err) != api.ErrFull || !reflect.DeepEqual(got, api.Tree{}) {
-			t.Errorf("%d trees: got %v, %v", size(more), got, err)
-		}
+		wantTree(t, "more than MaxList trees", l, more)
 		want, err := state.Text(l)
 		must(t, err)
 		wantAt(t, "more than MaxList trees", l, heads, refsOf(l))
@@ -693,6 +691,18 @@ func TestTreeFull(t *testing.T) {
 	}
 }
 
+// P1: the tree of a book as full as may be, all ops of which make one tree more.
+func TestTreeOfFullBook(t *testing.T) {
+	const most = api.MaxChanges*api.MaxOps + 1
+	for _, x := range []api.Tree{wide(most, number(1)), deep(most), keyed(most, "k")} {
+		l := written(1, x)
+		if len(l) != api.MaxChanges {
+			t.Fatalf("%d changes", len(l))
+		}
+		wantTree(t, "a full book", l, x)
+	}
+}
+
 // P1: what is gone, what is not a place's value, and what others wrote later do not count among the trees.
 func TestTreeCounted(t *testing.T) {
 	l := written(1, wide(402, number(1)))
@@ -703,9 +713,8 @@ func TestTreeCounted(t *testing.T) {
 		return api.Op{Kind: api.Del, Obj: api.Id{Num: 1, Actor: 1}, Elem: a, Preds: []api.Id{a}}
 	}
 	l = append(l, api.Change{Actor: 2, Seq: 1, Start: next, Deps: refs(1, last.Seq), Ops: []api.Op{remove(2)}})
-	if _, err := Tree(l); plain.Told(err) != api.ErrFull {
-		t.Errorf("401 are left: got %v", err)
-	}
+	wantTree(t, "401 are left", l, wide(401, number(1)))
+	wantNoDiff(t, "401 are left", l, nil, refs(2, 1), api.ErrFull)
 	l = append(l, api.Change{Actor: 2, Seq: 2, Start: next + 1, Deps: refs(2, 1), Ops: []api.Op{remove(3)}})
 	wantTree(t, "400 are left", l, wide(400, number(1)))
 	wantNoDiff(t, "401 and 400", l, refs(2, 1), refs(2, 2), api.ErrFull)

@@ -2,7 +2,11 @@ package doc
 
 import (
 	"commonbook/api"
+	"commonbook/dag"
 )
+
+// Book gives the hand's own book, and no copy, for those that say it over. Who lets it take something Rolls back first, because what is pending leans on what it has.
+func (d *Doc) Book() *dag.Book { return d.book }
 
 // Commit makes one change of what is pending.
 func (d *Doc) Commit() (api.Ref, error) {

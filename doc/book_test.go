@@ -424,6 +424,24 @@ func TestAllAndHeads(t *testing.T) {
 	wantRefs(t, "Heads", d.Heads(), b.Heads())
 }
 
+// Book is the hand's own, each time, and has nothing that is pending.
+func TestBook(t *testing.T) {
+	d := hand(t, 5)
+	b := d.Book()
+	must(t, d.Put(root, "a", num(1)))
+	if len(b.All()) != 0 {
+		t.Errorf("Book has what is pending: %v", b.All())
+	}
+	commit(t, d)
+	wantRefs(t, "Heads of Book", b.Heads(), refs(5, 1))
+	must(t, b.Take(lone(2, 1, 1)), b.Take(lone(3, 2, 9, 3, 1)))
+	wantRefs(t, "Heads", d.Heads(), refs(2, 1, 5, 1))
+	wantRefs(t, "what waits", d.Book().Waiting(), refs(3, 2))
+	if f := fork(t, d, 6); d.Book() != b || f.Book() == b {
+		t.Error("Book: another one, or that of a hand that was forked")
+	}
+}
+
 // P2: what was handed in is neither changed nor kept, and what is answered is the caller's.
 func TestMemory(t *testing.T) {
 	d := hand(t, 1)

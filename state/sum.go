@@ -130,14 +130,14 @@ func (s *Sum) inOrder(obj api.Id) []spot {
 		return slices.SortedFunc(slices.Values(s.keys[obj]), byKey)
 	}
 	var l []spot
-	for _, a := range s.elements(obj) {
+	for _, a := range s.Elements(obj) {
 		l = append(l, spot{obj: obj, elem: a})
 	}
 	return l
 }
 
-// elements gives all Inserts into a list, each with those that stand behind it.
-func (s *Sum) elements(list api.Id) []api.Id {
+// Elements gives all Inserts into a list, each with those that stand behind it.
+func (s *Sum) Elements(list api.Id) []api.Id {
 	var l []api.Id
 	var walk func(elem api.Id)
 	walk = func(elem api.Id) {

@@ -1,6 +1,8 @@
 package doc
 
 import (
+	"slices"
+
 	"commonbook/api"
 	"commonbook/dag"
 )
@@ -27,6 +29,11 @@ func (d *Doc) Rollback() int {
 	many := len(d.pending)
 	d.pending = nil
 	return many
+}
+
+// RollbackTo forgets what is pending but for the first so many ops, for those that add several or none.
+func (d *Doc) RollbackTo(many int) {
+	d.pending = slices.Delete(d.pending, max(0, min(many, len(d.pending))), len(d.pending))
 }
 
 // Pending tells how many ops are.

@@ -220,6 +220,28 @@ func TestRollback(t *testing.T) {
 	}
 }
 
+// RollbackTo leaves the first of what is pending, as many as are asked for, and the next op has the number behind them.
+func TestRollbackTo(t *testing.T) {
+	for many, left := range map[int]int{0: 0, 1: 1, 2: 2, 3: 3, 4: 4, 5: 4, math.MaxInt: 4, -1: 0, math.MinInt: 0} {
+		d, l := row(t, 2)
+		commit(t, d)
+		must(t, d.Insert(l, 0, num(7)), d.Remove(l, 1), d.Set(l, 0, num(8)), d.Put(root, "k", num(1)))
+		ops := slices.Clone(d.pending)
+		d.RollbackTo(many)
+		if d.Pending() != left {
+			t.Errorf("RollbackTo %d: %d pending, want %d", many, d.Pending(), left)
+		}
+		wantOps(t, fmt.Sprint("RollbackTo ", many), d.pending, ops[:left]...)
+		if a := made(t)(d.Make(root, "m", api.Map)); a != (api.Id{Num: 4 + left, Actor: 1}) {
+			t.Errorf("RollbackTo %d: the next id is %v", many, a)
+		}
+		commit(t, d)
+		wantOps(t, "committed", d.All()[1].Ops[:left], ops[:left]...)
+		d.RollbackTo(0)
+		wantText(t, "what is in the book stays", d, []string{`{"l":[0,1],"m":{}}`, `{"l":[7,0,1],"m":{}}`, `{"l":[7,1],"m":{}}`, `{"l":[8,1],"m":{}}`, `{"k":1,"l":[8,1],"m":{}}`}[left])
+	}
+}
+
 // H2: Take is the book's, but if something is pending.
 func TestTake(t *testing.T) {
 	d := hand(t, 1)

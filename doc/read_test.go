@@ -3,11 +3,13 @@ package doc
 import (
 	"fmt"
 	"math"
+	"reflect"
 	"slices"
 	"strings"
 	"testing"
 
 	"commonbook/api"
+	"commonbook/state"
 )
 
 func wantValues(t testing.TB, what string, d *Doc, obj api.Id, key string, want ...api.Value) {
@@ -98,6 +100,44 @@ func TestKeysAndLen(t *testing.T) {
 	}
 	if got, err := d.Keys(a.newer); err != nil || len(got) > 0 {
 		t.Errorf("Keys of an empty map: got %q, %v", got, err)
+	}
+}
+
+// Places gives what At gives of each element that has values, beside its element and the ids.
+func TestPlaces(t *testing.T) {
+	a, l := row(t, 4)
+	commit(t, a)
+	b := fork(t, a, 2)
+	must(t, a.Set(l, 1, num(5)), b.Set(l, 1, num(6)), b.Remove(l, 0), b.Insert(l, 2, num(7)))
+	commit(t, a)
+	commit(t, b)
+	merge(t, a, b, 1)
+	must(t, a.Remove(l, 3), a.Insert(l, 0, text("x")))
+	want := []state.Place{
+		{Obj: l, Elem: api.Id{Num: 10, Actor: 1}, All: []api.Value{text("x")}, Ids: ids(10, 1)},
+		{Obj: l, Elem: api.Id{Num: 3, Actor: 1}, All: []api.Value{num(6), num(5)}, Ids: ids(6, 2, 6, 1)},
+		{Obj: l, Elem: api.Id{Num: 4, Actor: 1}, All: []api.Value{num(2)}, Ids: ids(4, 1)},
+		{Obj: l, Elem: api.Id{Num: 8, Actor: 2}, All: []api.Value{num(7)}, Ids: ids(8, 2)},
+	}
+	for range 2 {
+		got, err := a.Places(l)
+		if err != nil || !reflect.DeepEqual(got, want) {
+			t.Fatalf("Places: got %v, %v, want %v", got, err, want)
+		}
+		// They are the caller's.
+		clear(got[1].All)
+		clear(got[1].Ids)
+		clear(got)
+	}
+	c := thingsOf(t)
+	for obj, want := range map[api.Id]api.Errno{root: api.ErrKind, c.aMap: api.ErrKind, c.lost: api.ErrKind, c.newer: api.ErrKind,
+		{Num: 3, Actor: 1}: api.ErrNone, {Num: 99, Actor: 1}: api.ErrNone, {Num: math.MinInt, Actor: -1}: api.ErrNone,
+		c.list: api.OK, c.losing: api.OK, c.newest: api.OK} {
+		got, err := c.Places(obj)
+		wantTold(t, fmt.Sprint("Places of ", obj), err, want)
+		if (len(got) > 0) != (want == api.OK) {
+			t.Errorf("Places of %v: got %v", obj, got)
+		}
 	}
 }
 
